@@ -76,9 +76,26 @@ func (y pair) more(values ...int64) (int, api.Errno) {
 
 func (y pair) load(at int) (int64, api.Errno) {
 	y.t.Helper()
+	y.peek(at)
 	v, e := y.m.Load(at)
 	if want, we := y.p.step(at); v != want || e != we {
 		y.t.Fatalf("Load(%d): %d, %d, want %d, %d", at, v, e, want, we)
+	}
+	y.hold()
+	return v, e
+}
+
+// peek is no step: nothing is done by the chapter's words.
+func (y pair) peek(at int) (int64, api.Errno) {
+	y.t.Helper()
+	v, e := y.m.Peek(at)
+	want, is := y.p.cells[at]
+	we := api.OK
+	if !is {
+		we = errNone
+	}
+	if v != want || e != we {
+		y.t.Fatalf("Peek(%d): %d, %d, want %d, %d", at, v, e, want, we)
 	}
 	y.hold()
 	return v, e
@@ -270,6 +287,33 @@ func TestSteps(t *testing.T) {
 	}
 }
 
+// TestPeek (P15.2): it tells what a cell holds, behind each step and ahead of the next one, and is none.
+func TestPeek(t *testing.T) {
+	y := newPair(t)
+	for _, at := range []int{-1, 0, 1, math.MinInt, math.MaxInt} {
+		if v, e := y.peek(at); v != 0 || e != errNone {
+			t.Error("of no cells:", at, v, e)
+		}
+	}
+	y.more(4, math.MinInt64)
+	y.store(0, 7)
+	y.swap(0, 7, math.MaxInt64)
+	y.swap(0, 7, 1)
+	for range 3 {
+		for at, want := range []int64{math.MaxInt64, math.MinInt64} {
+			if v, e := y.peek(at); v != want || e != 0 {
+				t.Error("Peek:", at, v, e)
+			}
+		}
+		if v, e := y.peek(2); v != 0 || e != errNone {
+			t.Error("of none:", v, e)
+		}
+	}
+	if n := y.m.Steps(); n != 3 {
+		t.Error("Steps:", n)
+	}
+}
+
 // TestOnce (P15.3): of many Swaps from one old value one is answered true; one more, once that value is there again.
 func TestOnce(t *testing.T) {
 	y := newPair(t)
@@ -300,6 +344,9 @@ func TestNil(t *testing.T) {
 			for _, at := range []int{0, -1, most} {
 				v, e := m.Load(at)
 				is, ee := m.Swap(at, 0, 1)
+				if p, ep := m.Peek(at); p != 0 || ep != errNil {
+					t.Error(i, "Peek:", p, ep)
+				}
 				if v != 0 || e != errNil || is || ee != errNil || m.Store(at, 1) != errNil {
 					t.Error(i, "steps:", v, e, is, ee)
 				}

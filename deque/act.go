@@ -21,12 +21,9 @@ func (a *act) over() bool { return a.came != api.ActGoes }
 // end has the act be over.
 func (a *act) end(came uint8, got int64) { a.next, a.came, a.got = nil, came, got }
 
-// cell is the number of one of the deque's own cells.
-func (a *act) cell(at int) int { return a.row.first + at }
-
 // read is a step: what a cell holds is told to the act.
 func (a *act) read(at int, to *int64, next step) api.Errno {
-	v, e := a.row.load(at)
+	v, e := a.row.mem.Load(at)
 	if e != api.OK {
 		return e
 	}
@@ -36,11 +33,11 @@ func (a *act) read(at int, to *int64, next step) api.Errno {
 
 // What acts read, each by a step.
 
-func (a *act) readTop(next step) api.Errno { return a.read(a.cell(atTop), &a.top, next) }
+func (a *act) readTop(next step) api.Errno { return a.read(a.row.cell(atTop), &a.top, next) }
 
-func (a *act) readBottom(next step) api.Errno { return a.read(a.cell(atBottom), &a.bottom, next) }
+func (a *act) readBottom(next step) api.Errno { return a.read(a.row.cell(atBottom), &a.bottom, next) }
 
-func (a *act) readWhere(next step) api.Errno { return a.read(a.cell(atWhere), &a.where, next) }
+func (a *act) readWhere(next step) api.Errno { return a.read(a.row.cell(atWhere), &a.where, next) }
 
 func (a *act) readCount(next step) api.Errno { return a.read(int(a.where), &a.count, next) }
 
@@ -48,7 +45,7 @@ func (a *act) readPlace(i int64, next step) api.Errno { return a.read(a.place(i)
 
 // write is a step: a cell holds v.
 func (a *act) write(at int, v int64, next step) api.Errno {
-	e := a.row.store(at, v)
+	e := a.row.mem.Store(at, v)
 	if e == api.OK {
 		a.next = next
 	}
@@ -57,15 +54,18 @@ func (a *act) write(at int, v int64, next step) api.Errno {
 
 // leave is a step, an act's last one: bottom is written.
 func (a *act) leave(bottom int64, came uint8, got int64) api.Errno {
-	e := a.write(a.cell(atBottom), bottom, nil)
+	e := a.write(a.row.cell(atBottom), bottom, nil)
 	if e == api.OK {
 		a.end(came, got)
 	}
 	return e
 }
 
-// take is a step: top goes on by one, unless another one was ahead.
-func (a *act) take() bool { return a.row.swap(a.top, a.top+1) }
+// take is a step: top, which is always there, goes on by one, unless another one was ahead.
+func (a *act) take() bool {
+	is, _ := a.row.mem.Swap(a.row.cell(atTop), a.top, a.top+1)
+	return is
+}
 
 // Act is a push, a pop or a steal, done step by step.
 type Act struct{ act *act }

@@ -1128,24 +1128,140 @@ func TestManyPlaces(t *testing.T) {
 	}
 }
 
-// TestSeen (P16.1): what others wrote to top and bottom counts once an act has read it; places below 0 are told modulo, too.
-func TestSeen(t *testing.T) {
+// wantSize (P16.1): what Size tells, by no step, and by changing no cell.
+func wantSize(t *testing.T, m *cell.Mem, d *Deque, want int) {
+	t.Helper()
+	was, n := m.Steps(), m.Len()
+	for range 2 {
+		if k := d.Size(); k != want || m.Steps() != was || m.Len() != n {
+			t.Errorf("Size: %d, want %d; %d steps", k, want, m.Steps()-was)
+		}
+	}
+}
+
+// TestSizeWritten (P16.1): top and bottom as they are now, by whatever call of the memory, and whoever wrote them last, the deque's acts or others.
+func TestSizeWritten(t *testing.T) {
+	m := cell.New()
+	d, _ := New(m, 2)
+	wantSize(t, m, d, 0)
+	for _, c := range []struct {
+		at   int
+		v    int64
+		size int
+	}{{1, 3, 3}, {0, 2, 1}, {0, 3, 0}, {0, 4, 0}, {1, 11, 7}, {0, -4, 15}, {1, -4, 0}, {1, -1, 3}, {0, math.MaxInt64, 0}, {1, math.MaxInt64, 0}, {0, 1, math.MaxInt64 - 1}, {0, 0, math.MaxInt64}} {
+		if e := m.Store(c.at, c.v); e != 0 {
+			t.Fatal("Store:", e)
+		}
+		wantSize(t, m, d, c.size)
+	}
+	for _, v := range []int64{-1, -9, math.MinInt64} { // bottom less top is more than an int can be
+		m.Store(0, v)
+		wantSize(t, m, d, math.MaxInt64)
+	}
+	for _, v := range []int64{1, 9, math.MaxInt64} { // bottom less top goes round to something above 0, but is below it
+		m.Store(0, v)
+		m.Store(1, math.MinInt64)
+		wantSize(t, m, d, 0)
+	}
+	m.Store(0, 5)
+	m.Store(1, 8)
+	if is, e := m.Swap(0, 5, 6); !is || e != 0 {
+		t.Fatal("Swap:", is, e)
+	}
+	wantSize(t, m, d, 2)
+	if is, e := m.Swap(0, 5, 7); is || e != 0 {
+		t.Fatal("Swap:", is, e)
+	}
+	wantSize(t, m, d, 2)
+	for at := 2; at < m.Len(); at++ { // no other cell counts
+		m.Store(at, 100)
+		wantSize(t, m, d, 2)
+	}
+}
+
+// TestSizeActs (P16.1): others write while acts are under way; what these read ahead of it doesn't count, but what they write then does.
+func TestSizeActs(t *testing.T) {
+	m, d := two(t)
+	p, _ := d.Push(3)
+	s, _ := d.Steal()
+	for range 5 {
+		p.Step()
+		s.Step()
+	}
+	wantSize(t, m, d, 2)
+	m.Store(1, 9)
+	wantSize(t, m, d, 9)
+	if c, _, e := p.Step(); c != done || e != 0 {
+		t.Fatal("Step of the push:", c, e)
+	}
+	wantSize(t, m, d, 3)
+	m.Store(0, 1)
+	wantSize(t, m, d, 2)
+	if c, _, e := s.Step(); c != lost || e != 0 {
+		t.Fatal("Step of the steal:", c, e)
+	}
+	wantSize(t, m, d, 2)
+	m.Store(0, -3)
+	m.Store(1, 4)
+	wantSize(t, m, d, 7)
+}
+
+// TestSizeTwo (P16.1): each deque of a memory tells its own cells; a deque that was never used does, too.
+func TestSizeTwo(t *testing.T) {
+	m := cell.New()
+	m.More(50, 60, 70)
+	a, _ := New(m, 0)
+	b, _ := New(m, 1) // behind the five cells of the first one
+	m.Store(4, 6)
+	m.Store(9, 4)
+	m.Store(8, 1)
+	m.Store(1, 1000)
+	wantSize(t, m, a, 6)
+	wantSize(t, m, b, 3)
+}
+
+// TestFar (P16.3): a push goes by how far bottom and top are apart, whatever others wrote: far below is no reason to grow.
+func TestFar(t *testing.T) {
+	m, d := two(t)
+	m.Store(0, 1)
+	m.Store(1, math.MinInt64)
+	n := m.Len()
+	a, _ := d.Push(3)
+	for i := range 6 {
+		if c, _, e := a.Step(); e != 0 || (c == done) != (i == 5) {
+			t.Fatal("Step:", i, c, e)
+		}
+	}
+	if v, _ := m.Load(1); v != math.MinInt64+1 || m.Len() != n {
+		t.Error("bottom, and cells:", v, m.Len()-n)
+	}
+	m.Store(0, math.MinInt64)
+	m.Store(1, math.MaxInt64)
+	a, _ = d.Push(3)
+	for range 5 { // it grows by the fifth
+		if c, _, e := a.Step(); c != goes || e != 0 {
+			t.Fatal("Step:", c, e)
+		}
+	}
+	if m.Len() != n+9 {
+		t.Error("cells:", m.Len()-n)
+	}
+}
+
+// TestBelow (P16.3): places below 0, where others wrote them, are told modulo, too.
+func TestBelow(t *testing.T) {
 	m, d := two(t)
 	m.Store(0, -3)
 	m.Store(1, 4)
-	a, _ := d.Steal()
-	a.Step()
-	a.Step()
-	if n := d.Size(); n != 7 {
-		t.Error("Size:", n)
-	}
 	m.Store(5, 77) // the place 1: -3 modulo 4
-	for range 3 {
+	a, _ := d.Steal()
+	for range 5 {
 		a.Step()
 	}
-	if c, v, e := a.Step(); c != got || v != 77 || e != 0 || d.Size() != 6 {
-		t.Error("Step:", c, v, e, d.Size())
+	if c, v, e := a.Step(); c != got || v != 77 || e != 0 {
+		t.Error("Step:", c, v, e)
 	}
+	wantSize(t, m, d, 6)
 }
 
 // TestAlone (P16.4): alone, the owner has a stack; alone, thieves have a queue.

@@ -16,7 +16,7 @@ func (p *pop) loadBottom() api.Errno { return p.readBottom(p.loadWhere) }
 func (p *pop) loadWhere() api.Errno { return p.readWhere(p.lower) }
 
 // lower tells thieves that the last place is wanted, ahead of asking how far they are.
-func (p *pop) lower() api.Errno { return p.write(p.cell(atBottom), p.last(), p.loadTop) }
+func (p *pop) lower() api.Errno { return p.write(p.row.cell(atBottom), p.last(), p.loadTop) }
 
 func (p *pop) loadTop() api.Errno {
 	e := p.readTop(p.loadCount)

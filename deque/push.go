@@ -18,7 +18,7 @@ func (p *push) loadWhere() api.Errno { return p.readWhere(p.loadCount) }
 
 func (p *push) loadCount() api.Errno {
 	e := p.readCount(p.storeValue)
-	if e == api.OK && p.bottom-p.top >= p.count {
+	if e == api.OK && less(p.bottom, p.top) >= p.count {
 		p.next = p.grow
 	}
 	return e
@@ -58,7 +58,7 @@ func (p *push) storeMoved() api.Errno {
 }
 
 func (p *push) storeWhere() api.Errno {
-	e := p.write(p.cell(atWhere), p.wider.where, p.storeValue)
+	e := p.write(p.row.cell(atWhere), p.wider.where, p.storeValue)
 	if e == api.OK {
 		p.places = p.wider
 	}
